@@ -244,9 +244,6 @@ func TestP4_1Over(t *testing.T) {
 // TestP4_1All looks at all positions of many fields.
 func TestP4_1All(t *testing.T) {
 	for _, f := range manyFields(60, 7) {
-		if f.m == 9 && len(f.lines) != 8 {
-			continue
-		}
 		winners := slowWinners(f)
 		for _, p := range positions(f.m) {
 			for _, next := range []string{"w", "d"} {
